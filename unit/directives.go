@@ -59,7 +59,7 @@ func directives() map[directive]setter {
 		{serviceSection, "TimeoutStartSec"}: put(timeout, func(f *File, n int64) { f.Service.Up = n }),
 		{serviceSection, "TimeoutStopSec"}:  put(timeout, func(f *File, n int64) { f.Service.Down = n }),
 		{serviceSection, "TimeoutSec"}:      put(timeout, func(f *File, n int64) { f.Service.Up, f.Service.Down = n, n }),
-		{serviceSection, "ExecStart"}:       put(words.Split, func(f *File, l []string) { f.Service.Exec = l }),
+		{serviceSection, "ExecStart"}:       put(command, func(f *File, l []string) { f.Service.Exec = l }),
 
 		{timerSection, "OnCalendar"}:         trigger(calendar),
 		{timerSection, "OnActiveSec"}:        trigger(behind(api.OnActive)),
@@ -226,6 +226,15 @@ func types() map[string]uint8 {
 
 func restarts() map[string]uint8 {
 	return map[string]uint8{"no": Never, "always": Always, "on-success": OnSuccess, "on-failure": OnFailure}
+}
+
+// command is what a service runs. An empty value says that it is nothing; one of blanks alone has no word either, but does not say so.
+func command(value string) ([]string, api.Errno) {
+	l, err := words.Split(value)
+	if err == api.OK && len(l) == 0 && value != "" {
+		return nil, api.ErrValue
+	}
+	return l, err
 }
 
 // calendar is a trigger that elapses by a calendar.

@@ -204,10 +204,10 @@ func (p plain) says(sort, value string, old any) (any, api.Errno) {
 		return list(old.([]string), l, len(l) == 0)
 	case "words":
 		l, ok := p.words(value)
-		if !ok {
+		if !ok || len(l) == 0 && value != "" {
 			return nil, 131
 		}
-		return list(nil, l, len(l) == 0)
+		return list(nil, l, value == "")
 	case "switch":
 		return one(value, map[string]bool{"yes": true, "true": true, "on": true, "1": true, "no": false, "false": false, "off": false, "0": false})
 	case "type":
@@ -382,7 +382,7 @@ func (l lot) words() string {
 	if l.Intn(8) == 0 {
 		all = append(all, l.of(`"`, `'`, `\`, `\q`, `"a`))
 	}
-	return l.of("", " ") + strings.Join(all, l.of(" ", "\t", "  "))
+	return l.of("", " ", "\t ") + strings.Join(all, l.of(" ", "\t", "  ")) + l.of("", "", " ")
 }
 
 // number is a row of digits, or nearly one.

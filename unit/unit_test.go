@@ -590,7 +590,7 @@ func TestExec(t *testing.T) {
 	want := f
 	for value, l := range map[string][]string{
 		"/bin/x": {"/bin/x"}, `/bin/x 'a b'`: {"/bin/x", "a b"}, " a\tb ": {"a", "b"}, `""`: {""}, `"" ''`: {"", ""}, `a\sb`: {"a b"}, `\x00 "é"`: {"\x00", "é"}, "a = b": {"a", "=", "b"}, "\n": {"\n"},
-		"": nil, " ": nil, "\t": nil, " \t ": nil,
+		"": nil, ` ""`: {""}, "\t''\t": {""}, `" "`: {" "}, "'\t'": {"\t"}, `\s`: {" "}, `\t`: {"\t"}, `\x20`: {" "},
 		many("a", 63): slices.Repeat([]string{"a"}, 63), many("'a b'", 64): slices.Repeat([]string{"a b"}, 64),
 	} {
 		want.Service.Exec = l
@@ -602,6 +602,29 @@ func TestExec(t *testing.T) {
 		refuses(t, g, "Service", "ExecStart", many("a", 65), api.ErrLimit)
 		refuses(t, g, "Service", "ExecStart", many("a", 1000), api.ErrLimit)
 		refuses(t, g, "Service", "ExecStart", many(`""`, 65), api.ErrLimit)
+	}
+}
+
+// P13.2: a value of blanks alone is not words, one at least, nor nothing: only an empty one is that.
+func TestExecOfBlanks(t *testing.T) {
+	f := fileOf(t, "a.service")
+	one := sets(t, f, "Service", "ExecStart", `""`)
+	for _, g := range []File{f, one, sets(t, f, "Service", "ExecStart", "/bin/was here"), sets(t, f, "Service", "ExecStart", many("a", 64))} {
+		says(t, g, "Service", "ExecStart", "", f)
+		rows := []string{""}
+		for range 7 {
+			var longer []string
+			for _, row := range rows {
+				longer = append(longer, row+" ", row+"\t")
+			}
+			rows = longer
+			for _, row := range rows {
+				wrong(t, g, "Service", "ExecStart", row)
+				says(t, g, "Service", "ExecStart", row+`""`, one)
+				says(t, g, "Service", "ExecStart", `""`+row, one)
+			}
+		}
+		wrong(t, g, "Service", "ExecStart", strings.Repeat(" ", 64), strings.Repeat("\t", 65), strings.Repeat(" \t", 30000))
 	}
 }
 
